@@ -1,7 +1,8 @@
-// Package list holds what layers say alike of lists: what is asked of one that rises, and how it is put as bytes.
+// Package list holds what layers say alike of lists: what is asked of one that rises, what stands in it, and how it is put as bytes.
 package list
 
 import (
+	"slices"
 	"strings"
 
 	"almonry/api"
@@ -17,6 +18,12 @@ func Compare[T any](less func(a, b T) bool, a, b T) int {
 		return 1
 	}
 	return 0
+}
+
+// Has tells whether a thing stands in a list that rises.
+func Has[T any](l []T, less func(a, b T) bool, thing T) bool {
+	_, found := slices.BinarySearchFunc(l, thing, func(a, b T) int { return Compare(less, a, b) })
+	return found
 }
 
 // Check asks each thing's own check, and only then whether all of them rise.

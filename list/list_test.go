@@ -55,6 +55,27 @@ func TestCompare(t *testing.T) {
 	}
 }
 
+func TestHas(t *testing.T) {
+	// Each second number, and those between them.
+	for size := range 40 {
+		var l []int
+		for i := range size {
+			l = append(l, 2*i)
+		}
+		for n := -1; n <= 2*size; n++ {
+			want := n >= 0 && n < 2*size && n%2 == 0
+			if got := list.Has(l, less, n); got != want {
+				t.Errorf("%d numbers have %d: %t", size, n, got)
+			}
+		}
+	}
+	// What stands in a list is told by less alone.
+	shorter := func(a, b string) bool { return len(a) < len(b) }
+	if l := []string{"a", "bcd"}; !list.Has(l, shorter, "xyz") || list.Has(l, shorter, "xy") {
+		t.Errorf("Has of texts by their length = %t, %t", list.Has(l, shorter, "xyz"), list.Has(l, shorter, "xy"))
+	}
+}
+
 func TestCheck(t *testing.T) {
 	for _, c := range []struct {
 		l    []int
