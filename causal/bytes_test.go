@@ -8,42 +8,16 @@ import (
 	"almonry/api"
 	"almonry/causal"
 	"almonry/dot"
+	"almonry/plainly"
 	"almonry/vector"
 	"almonry/wire"
 )
 
-// number is how layer 1 puts a number, which is written down again here.
-func number(n int) string {
-	var out []byte
-	for ; n >= 128; n /= 128 {
-		out = append(out, byte(n%128+128))
-	}
-	return string(append(out, byte(n)))
-}
-
-// text is how layer 1 puts a text.
-func text(s string) string { return number(len(s)) + s }
-
-// plainDots is how layer 11 puts dots, whether it takes them or not.
-func plainDots(l ...api.Dot) string {
-	out := number(len(l))
-	for _, d := range l {
-		out += number(d.Replica) + number(d.N)
-	}
-	return out
-}
-
-// plainVector is how layer 12 puts a vector, whether it takes it or not.
-func plainVector(v api.Vector) string {
-	out := ""
-	for _, n := range v {
-		out += number(n)
-	}
-	return out
-}
+// vectorBytes is how layer 12 puts a vector, whether it takes it or not.
+func vectorBytes(v api.Vector) string { return plainly.Numbers(v[:]...) }
 
 // plainPut is what promise 13.2 says that Put puts.
-func plainPut(c api.Context) string { return plainVector(c.V) + text(plainDots(c.Cloud...)) }
+func plainPut(c api.Context) string { return vectorBytes(c.V) + plainly.Text(plainly.Dots(c.Cloud...)) }
 
 // puts fails unless Put answers want, and Read reads it again.
 func puts(t *testing.T, c api.Context, want string) {
@@ -81,7 +55,7 @@ func TestPut(t *testing.T) {
 	puts(t, of(api.Vector{2}, at(1, 3)), "\x02"+none[1:]+"\x03\x01\x01\x03")
 	puts(t, of(api.Vector{15: 300}, at(0, 2), at(15, api.MaxCount)), none[1:]+"\xac\x02"+"\x0a\x02\x00\x02\x0f\x80\x80\x80\x80\x80\x20")
 	puts(t, of(all(api.MaxCount)), strings.Repeat("\x80\x80\x80\x80\x80\x20", 16)+"\x01\x00")
-	puts(t, of(api.Vector{1, 2, 3}, row(0, 3, 60)...), "\x01\x02\x03"+none[3:]+"\x75\x3a"+plainDots(row(0, 3, 60)...)[1:])
+	puts(t, of(api.Vector{1, 2, 3}, row(0, 3, 60)...), "\x01\x02\x03"+none[3:]+"\x75\x3a"+plainly.Dots(row(0, 3, 60)...)[1:])
 }
 
 func TestPutOfEachPlace(t *testing.T) {
@@ -183,31 +157,31 @@ func TestReadRefusesWhatIsLeft(t *testing.T) {
 		for _, left := range []string{"\x00", "x", "\x80", "\x80\x00", "\xff", plainPut(c)} {
 			notRead(t, plainPut(c)+left, api.ErrForm)
 			// Inside the text it is layer 11's to refuse it.
-			notRead(t, plainVector(c.V)+text(plainDots(c.Cloud...)+left), api.ErrForm)
+			notRead(t, vectorBytes(c.V)+plainly.Text(plainly.Dots(c.Cloud...)+left), api.ErrForm)
 		}
 	}
 }
 
 func TestReadRefusesATextThatIsTooLong(t *testing.T) {
 	for _, n := range []int{api.MaxText + 1, api.MaxCount, api.MaxNum} {
-		notRead(t, plainVector(all(0))+number(n), api.ErrLong)
-		notRead(t, plainVector(all(0))+number(n)+"\x00", api.ErrLong)
-		notRead(t, plainVector(all(api.MaxNum))+number(n), api.ErrLong)
+		notRead(t, vectorBytes(all(0))+plainly.Number(n), api.ErrLong)
+		notRead(t, vectorBytes(all(0))+plainly.Number(n)+"\x00", api.ErrLong)
+		notRead(t, vectorBytes(all(api.MaxNum))+plainly.Number(n), api.ErrLong)
 	}
-	long := text(strings.Repeat("\x00", api.MaxText+1))
-	notRead(t, plainVector(all(0))+long, api.ErrLong)
-	notRead(t, plainVector(all(0))+text(strings.Repeat("\x00", api.MaxText)), api.ErrForm)
-	notRead(t, plainVector(all(0))+number(api.MaxText), api.ErrCut)
+	long := plainly.Text(strings.Repeat("\x00", api.MaxText+1))
+	notRead(t, vectorBytes(all(0))+long, api.ErrLong)
+	notRead(t, vectorBytes(all(0))+plainly.Text(strings.Repeat("\x00", api.MaxText)), api.ErrForm)
+	notRead(t, vectorBytes(all(0))+plainly.Number(api.MaxText), api.ErrCut)
 }
 
 func TestReadRefusesWrongVectors(t *testing.T) {
 	for place := range api.Replicas {
 		for _, n := range []int{api.MaxCount + 1, 2 * api.MaxCount, api.MaxNum} {
-			v := plainVector(with(all(5), place, n))
+			v := vectorBytes(with(all(5), place, n))
 			// It comes ahead of all that the text's bytes tell, and behind what layer 1 tells.
-			for _, dots := range []string{plainDots(), "", "\x80", "\x81\x20", plainDots(at(16, 1)), plainDots(at(3, 1)), plainDots(at(3, 9), at(3, 8))} {
-				notRead(t, v+text(dots), api.ErrRange)
-				notRead(t, v+text(dots)+"\x00", api.ErrForm)
+			for _, dots := range []string{plainly.Dots(), "", "\x80", "\x81\x20", plainly.Dots(at(16, 1)), plainly.Dots(at(3, 1)), plainly.Dots(at(3, 9), at(3, 8))} {
+				notRead(t, v+plainly.Text(dots), api.ErrRange)
+				notRead(t, v+plainly.Text(dots)+"\x00", api.ErrForm)
 			}
 			notRead(t, v, api.ErrCut)
 			notRead(t, v+"\x02\x00", api.ErrCut)
@@ -228,17 +202,17 @@ func TestReadRefusesWrongDots(t *testing.T) {
 		{"\x00\x00", api.ErrForm},
 		{"\x81\x80\x80\x80\x80\x80\x80\x10", api.ErrRange},
 		{"\x81\x20", api.ErrLong},
-		{plainDots(odd(api.MaxList + 1)...), api.ErrLong},
-		{plainDots(at(16, 9)), api.ErrRange},
-		{plainDots(at(3, 0)), api.ErrRange},
-		{plainDots(at(3, api.MaxCount+1)), api.ErrRange},
-		{plainDots(at(3, 9), at(3, 8)), api.ErrForm},
-		{plainDots(at(3, 9), at(3, 9)), api.ErrForm},
-		{plainDots(at(3, 9), at(2, 9), at(2, 0)), api.ErrRange},
-		{plainDots(at(3, 1), at(3, 0)), api.ErrRange},
-		{plainDots(at(3, 1)) + "\x01", api.ErrForm},
+		{plainly.Dots(odd(api.MaxList + 1)...), api.ErrLong},
+		{plainly.Dots(at(16, 9)), api.ErrRange},
+		{plainly.Dots(at(3, 0)), api.ErrRange},
+		{plainly.Dots(at(3, api.MaxCount+1)), api.ErrRange},
+		{plainly.Dots(at(3, 9), at(3, 8)), api.ErrForm},
+		{plainly.Dots(at(3, 9), at(3, 9)), api.ErrForm},
+		{plainly.Dots(at(3, 9), at(2, 9), at(2, 0)), api.ErrRange},
+		{plainly.Dots(at(3, 1), at(3, 0)), api.ErrRange},
+		{plainly.Dots(at(3, 1)) + "\x01", api.ErrForm},
 	} {
-		notRead(t, plainVector(all(5))+text(c.dots), c.want)
+		notRead(t, vectorBytes(all(5))+plainly.Text(c.dots), c.want)
 		if got, err := dot.Read(c.dots); len(got) != 0 || err != c.want {
 			t.Errorf("layer 11's Read of %.60q = error %d; want %d", c.dots, err, c.want)
 		}
@@ -260,7 +234,7 @@ func TestReadRefusesWhatIsNotClean(t *testing.T) {
 	}
 	for _, c := range unclean() {
 		if dots, err := dot.Put(c.Cloud); err == api.OK {
-			notRead(t, plainVector(c.V)+text(dots), api.ErrForm)
+			notRead(t, vectorBytes(c.V)+plainly.Text(dots), api.ErrForm)
 		}
 	}
 }
@@ -317,19 +291,10 @@ func readsPlainly(t *testing.T, s string) {
 
 // Each vector stands ahead of all short texts over some bytes.
 func TestReadOfAllShortTexts(t *testing.T) {
-	letters := []byte{0, 1, 2, 3, 15, 16, 0x80}
 	for _, v := range []api.Vector{{}, {0, 1}, all(2), {15: api.MaxCount + 1}} {
-		var walk func(s []byte, left int)
-		walk = func(s []byte, left int) {
-			readsPlainly(t, plainVector(v)+text(string(s)))
-			if left == 0 {
-				return
-			}
-			for _, c := range letters {
-				walk(append(s, c), left-1)
-			}
+		for s := range plainly.Words("\x00\x01\x02\x03\x0f\x10\x80", 5) {
+			readsPlainly(t, vectorBytes(v)+plainly.Text(s))
 		}
-		walk(nil, 5)
 	}
 }
 
@@ -352,8 +317,8 @@ func FuzzOneForm(f *testing.F) {
 			f.Add(plainPut(c))
 		}
 	}
-	f.Add(plainVector(all(0)) + "\x00")
-	f.Add(plainVector(all(0)) + "\x02\x81\x20")
-	f.Add(plainVector(all(api.MaxNum)) + "\x01\x00")
+	f.Add(vectorBytes(all(0)) + "\x00")
+	f.Add(vectorBytes(all(0)) + "\x02\x81\x20")
+	f.Add(vectorBytes(all(api.MaxNum)) + "\x01\x00")
 	f.Fuzz(readsPlainly)
 }

@@ -8,6 +8,7 @@ import (
 	"almonry/api"
 	"almonry/chunk"
 	"almonry/hexa"
+	"almonry/plainly"
 )
 
 // The IDs of some bytes.
@@ -28,20 +29,11 @@ func fill(n int) string {
 	return string(out)
 }
 
-// number is how layer 1 puts a number, which is written down again here.
-func number(n int) string {
-	var out []byte
-	for ; n >= 128; n /= 128 {
-		out = append(out, byte(n%128+128))
-	}
-	return string(append(out, byte(n)))
-}
-
 // plain is what promise 9.1 says that Put puts.
 func plain(m api.Manifest) string {
-	out := number(m.Size) + number(m.Chunk) + number(len(m.IDs))
+	out := plainly.Numbers(m.Size, m.Chunk, len(m.IDs))
 	for _, id := range m.IDs {
-		out += number(len(id)) + id
+		out += plainly.Text(id)
 	}
 	return out
 }

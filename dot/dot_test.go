@@ -7,37 +7,11 @@ import (
 
 	"almonry/api"
 	"almonry/dot"
+	"almonry/plainly"
 )
 
 // at is the name of a replica's update.
 func at(replica, n int) api.Dot { return api.Dot{Replica: replica, N: n} }
-
-// number is how layer 1 puts a number, which is written down again here.
-func number(n int) string {
-	var out []byte
-	for ; n >= 128; n /= 128 {
-		out = append(out, byte(n%128+128))
-	}
-	return string(append(out, byte(n)))
-}
-
-// numbers are some, one behind the other.
-func numbers(l ...int) string {
-	out := ""
-	for _, n := range l {
-		out += number(n)
-	}
-	return out
-}
-
-// plainPut is what promise 11.1 says that Put puts.
-func plainPut(l []api.Dot) string {
-	out := number(len(l))
-	for _, d := range l {
-		out += number(d.Replica) + number(d.N)
-	}
-	return out
-}
 
 // good are n names that rise.
 func good(n int) []api.Dot {
@@ -284,7 +258,7 @@ func TestPutPutsCountAndNames(t *testing.T) {
 	puts(t, []api.Dot{at(0, 1), at(0, api.MaxCount), at(1, 1), at(15, 127), at(15, 128)},
 		"\x05\x00\x01\x00\x80\x80\x80\x80\x80\x20\x01\x01\x0f\x7f\x0f\x80\x01")
 	for _, n := range []int{16, 127, 128, 129, 1000, api.MaxList - 1, api.MaxList} {
-		puts(t, good(n), plainPut(good(n)))
+		puts(t, good(n), plainly.Dots(good(n)...))
 	}
 }
 
@@ -336,7 +310,7 @@ func unordered() [][]api.Dot {
 func TestPutAndReadRefuseWhatDoesNotRise(t *testing.T) {
 	for _, l := range unordered() {
 		notPut(t, l, api.ErrForm)
-		notRead(t, plainPut(l), api.ErrForm)
+		notRead(t, plainly.Dots(l...), api.ErrForm)
 	}
 }
 
@@ -346,7 +320,7 @@ func TestPutAndReadCheckAllAheadOfTheirOrder(t *testing.T) {
 		for _, l := range unordered() {
 			l = append(slices.Clone(l[:min(len(l), 100)]), d)
 			notPut(t, l, api.ErrRange)
-			notRead(t, plainPut(l), api.ErrRange)
+			notRead(t, plainly.Dots(l...), api.ErrRange)
 		}
 	}
 }
@@ -388,12 +362,12 @@ func TestReadRefusesWrongNumbers(t *testing.T) {
 func TestReadRefusesWhatIsCut(t *testing.T) {
 	notRead(t, "", api.ErrCut)
 	for _, l := range [][]api.Dot{{at(0, 1)}, {at(15, api.MaxCount)}, good(3), good(200)} {
-		s := plainPut(l)
+		s := plainly.Dots(l...)
 		for n := range len(s) {
 			notRead(t, s[:n], api.ErrCut)
 		}
 	}
-	full := plainPut(good(api.MaxList))
+	full := plainly.Dots(good(api.MaxList)...)
 	notRead(t, full[:len(full)-1], api.ErrCut)
 	notRead(t, full[:2], api.ErrCut)
 }
@@ -401,7 +375,7 @@ func TestReadRefusesWhatIsCut(t *testing.T) {
 func TestReadRefusesWhatIsLeft(t *testing.T) {
 	for _, l := range [][]api.Dot{nil, {at(0, 1)}, good(3), good(api.MaxList)} {
 		for _, more := range []string{"\x00", "\x0f\x01", "\xff", "\x80\x80"} {
-			notRead(t, plainPut(l)+more, api.ErrForm)
+			notRead(t, plainly.Dots(l...)+more, api.ErrForm)
 		}
 	}
 }
@@ -409,11 +383,11 @@ func TestReadRefusesWhatIsLeft(t *testing.T) {
 func TestReadTellsTooManyAsSoonAsTheirNumberIsRead(t *testing.T) {
 	for _, n := range []int{api.MaxList + 1, api.MaxList + 128, api.MaxText, api.MaxCount, api.MaxNum} {
 		for _, behind := range []string{"", "\x00", "\x00\x01", "\x80", "\x80\x00", "\x10\x00", "\x00\x01\x00\x01"} {
-			notRead(t, number(n)+behind, api.ErrLong)
+			notRead(t, plainly.Number(n)+behind, api.ErrLong)
 		}
 	}
-	notRead(t, plainPut(good(api.MaxList+1)), api.ErrLong)
-	notRead(t, plainPut(good(api.MaxList+1))+"\x00", api.ErrLong)
+	notRead(t, plainly.Dots(good(api.MaxList+1)...), api.ErrLong)
+	notRead(t, plainly.Dots(good(api.MaxList+1)...)+"\x00", api.ErrLong)
 }
 
 func TestReadRefusesWhatIsNoName(t *testing.T) {
@@ -421,9 +395,9 @@ func TestReadRefusesWhatIsNoName(t *testing.T) {
 		if d.Replica < 0 || d.Replica > api.MaxNum || d.N < 0 || d.N > api.MaxNum {
 			continue
 		}
-		notRead(t, plainPut([]api.Dot{d}), api.ErrRange)
+		notRead(t, plainly.Dots(d), api.ErrRange)
 		for place := range 4 {
-			notRead(t, plainPut(with(good(4), place, d)), api.ErrRange)
+			notRead(t, plainly.Dots(with(good(4), place, d)...), api.ErrRange)
 		}
 	}
 }
@@ -439,34 +413,9 @@ func TestReadTellsErrorsInTheirOrder(t *testing.T) {
 	notRead(t, "\x02\x10\x00\x10\x00", api.ErrRange)
 }
 
-// plainNumber reads a number as promise 1.2 says, the long way: its last byte is looked for first.
-func plainNumber(s string) (int, string, api.Errno) {
-	last := 0
-	for last < len(s) && s[last] >= 128 {
-		last++
-	}
-	switch {
-	case last == len(s):
-		return 0, "", api.ErrCut
-	case last >= 8:
-		return 0, "", api.ErrRange
-	}
-	n := 0
-	for i := last; i >= 0; i-- {
-		n = n*128 + int(s[i]&127)
-	}
-	switch {
-	case n > api.MaxNum:
-		return 0, "", api.ErrRange
-	case last > 0 && s[last] == 0:
-		return 0, "", api.ErrForm
-	}
-	return n, s[last+1:], api.OK
-}
-
 // plainRead is what promise 11.1 says that Read answers.
 func plainRead(s string) ([]api.Dot, api.Errno) {
-	count, s, err := plainNumber(s)
+	count, s, err := plainly.TakeNumber(s)
 	if err != api.OK {
 		return nil, err
 	}
@@ -476,10 +425,10 @@ func plainRead(s string) ([]api.Dot, api.Errno) {
 	var l []api.Dot
 	for len(l) < count {
 		var d api.Dot
-		if d.Replica, s, err = plainNumber(s); err != api.OK {
+		if d.Replica, s, err = plainly.TakeNumber(s); err != api.OK {
 			return nil, err
 		}
-		if d.N, s, err = plainNumber(s); err != api.OK {
+		if d.N, s, err = plainly.TakeNumber(s); err != api.OK {
 			return nil, err
 		}
 		l = append(l, d)
@@ -515,23 +464,14 @@ func readsPlainly(t *testing.T, s string) {
 }
 
 func TestReadOfAllShortBytes(t *testing.T) {
-	letters := []byte{0, 1, 2, 3, 15, 16, 0x80, 0x81}
-	var all func(s []byte, left int)
-	all = func(s []byte, left int) {
-		readsPlainly(t, string(s))
-		if left == 0 {
-			return
-		}
-		for _, c := range letters {
-			all(append(s, c), left-1)
-		}
+	for s := range plainly.Words("\x00\x01\x02\x03\x0f\x10\x80\x81", 6) {
+		readsPlainly(t, s)
 	}
-	all(nil, 6)
 }
 
 // A list that was read is nobody else's.
 func TestReadAnswersNewLists(t *testing.T) {
-	s := numbers(2, 0, 3, 1, 2)
+	s := plainly.Numbers(2, 0, 3, 1, 2)
 	a, _ := dot.Read(s)
 	b, _ := dot.Read(s)
 	clear(a)

@@ -9,34 +9,8 @@ import (
 
 	"almonry/api"
 	"almonry/fact"
+	"almonry/plainly"
 )
-
-// number is how layer 1 puts a number, which is written down again here.
-func number(n int) string {
-	var out []byte
-	for ; n >= 128; n /= 128 {
-		out = append(out, byte(n%128+128))
-	}
-	return string(append(out, byte(n)))
-}
-
-// text is how layer 1 puts a text.
-func text(s string) string { return number(len(s)) + s }
-
-// plainFact is how promise 15.2 says that a fact is put, whether an update may say it or not.
-func plainFact(f api.Fact) string {
-	return number(f.Dot.Replica) + number(f.Dot.N) + number(f.Stamp.Time) + number(f.Stamp.Count) + number(f.Kind) + text(f.Name) + text(f.Value)
-}
-
-// plainPut is what promise 15.2 says that Put puts.
-func plainPut(l []api.Fact) string {
-	var out strings.Builder
-	out.WriteString(number(len(l)))
-	for _, f := range l {
-		out.WriteString(plainFact(f))
-	}
-	return out.String()
-}
 
 // good are n facts that rise, of all replicas and kinds.
 func good(n int) []api.Fact {
@@ -112,15 +86,15 @@ func TestPutPutsCountNumbersAndTexts(t *testing.T) {
 }
 
 func TestPutOfEachKind(t *testing.T) {
-	puts(t, each(), plainPut(each()))
+	puts(t, each(), plainly.Facts(each()...))
 	for replica := range api.Replicas {
 		for _, f := range each() {
 			f = at(f, replica)
-			puts(t, []api.Fact{f}, plainPut([]api.Fact{f}))
+			puts(t, []api.Fact{f}, plainly.Facts(f))
 			f.Dot.N, f.Stamp.Time, f.Stamp.Count = api.MaxCount, 0, api.MaxTime
-			puts(t, []api.Fact{f}, plainPut([]api.Fact{f}))
+			puts(t, []api.Fact{f}, plainly.Facts(f))
 			f.Dot.N, f.Stamp.Time, f.Stamp.Count = 1, api.MaxTime, 0
-			puts(t, []api.Fact{f}, plainPut([]api.Fact{f}))
+			puts(t, []api.Fact{f}, plainly.Facts(f))
 		}
 	}
 }
@@ -132,13 +106,13 @@ func TestPutOfTheLongestTexts(t *testing.T) {
 		say(api.FactLabel, name, strings.Repeat("\xff", 256)),
 		say(api.FactTag, name, strings.Repeat("\x00", 64)),
 	} {
-		puts(t, []api.Fact{f}, plainPut([]api.Fact{f}))
+		puts(t, []api.Fact{f}, plainly.Facts(f))
 	}
 }
 
 func TestPutOfManyFacts(t *testing.T) {
 	for _, n := range []int{1, 2, 16, 127, 128, 129, 1000, api.MaxList - 1, api.MaxList} {
-		puts(t, good(n), plainPut(good(n)))
+		puts(t, good(n), plainly.Facts(good(n)...))
 	}
 }
 
@@ -155,7 +129,7 @@ func TestPutOfAllThatRise(t *testing.T) {
 	if len(l) < 50 {
 		t.Fatalf("only %d facts", len(l))
 	}
-	puts(t, l, plainPut(l))
+	puts(t, l, plainly.Facts(l...))
 }
 
 func TestPutRefusesTooMany(t *testing.T) {
@@ -201,7 +175,7 @@ func TestPutAndReadTellTheFirstOnesError(t *testing.T) {
 		for _, b := range kindsOfWrong() {
 			for _, l := range [][]api.Fact{{a, b}, {say(api.FactTag, "b", "x"), a, b}, {a, say(api.FactTag, "b", "x"), b}} {
 				notPut(t, l, plainCheck(a))
-				notRead(t, plainPut(l), plainCheck(a))
+				notRead(t, plainly.Facts(l...), plainCheck(a))
 			}
 		}
 	}
@@ -242,7 +216,7 @@ func unordered() [][]api.Fact {
 func TestPutAndReadRefuseWhatDoesNotRise(t *testing.T) {
 	for _, l := range unordered() {
 		notPut(t, l, api.ErrForm)
-		notRead(t, plainPut(l), api.ErrForm)
+		notRead(t, plainly.Facts(l...), api.ErrForm)
 	}
 }
 
@@ -252,7 +226,7 @@ func TestPutAndReadCheckAllAheadOfTheirOrder(t *testing.T) {
 		for _, l := range unordered() {
 			l = append(slices.Clone(l[:min(len(l), 50)]), f)
 			notPut(t, l, plainCheck(f))
-			notRead(t, plainPut(l), plainCheck(f))
+			notRead(t, plainly.Facts(l...), plainCheck(f))
 		}
 	}
 }
@@ -287,24 +261,24 @@ func TestReadRefusesWrongNumbers(t *testing.T) {
 func TestReadRefusesWhatIsCut(t *testing.T) {
 	notRead(t, "", api.ErrCut)
 	for _, l := range [][]api.Fact{{say(3, "b", "x")}, each(), good(9), {at(wrongFacts()[0], 1)}} {
-		s := plainPut(l)
+		s := plainly.Facts(l...)
 		for size := range len(s) {
 			notRead(t, s[:size], api.ErrCut)
 		}
 	}
-	full := plainPut(good(api.MaxList))
+	full := plainly.Facts(good(api.MaxList)...)
 	notRead(t, full[:len(full)-1], api.ErrCut)
 	notRead(t, full[:2], api.ErrCut)
 }
 
 func TestReadRefusesWhatIsLeft(t *testing.T) {
 	for _, l := range [][]api.Fact{nil, {say(3, "b", "x")}, each(), good(api.MaxList)} {
-		for _, left := range []string{"\x00", "x", "\x80", "\x80\x80", "\xff", plainPut(l)} {
-			notRead(t, plainPut(l)+left, api.ErrForm)
+		for _, left := range []string{"\x00", "x", "\x80", "\x80\x80", "\xff", plainly.Facts(l...)} {
+			notRead(t, plainly.Facts(l...)+left, api.ErrForm)
 		}
 	}
 	// Its count tells how many there are, whatever stands there.
-	two := plainPut(good(2))
+	two := plainly.Facts(good(2)...)
 	notRead(t, "\x01"+two[1:], api.ErrForm)
 	notRead(t, "\x03"+two[1:], api.ErrCut)
 	notRead(t, "\x00"+two[1:], api.ErrForm)
@@ -312,32 +286,32 @@ func TestReadRefusesWhatIsLeft(t *testing.T) {
 
 func TestReadTellsTooManyAsSoonAsTheirNumberIsRead(t *testing.T) {
 	for _, n := range []int{api.MaxList + 1, api.MaxList + 128, api.MaxText, api.MaxCount, api.MaxNum} {
-		for _, behind := range []string{"", "\x00", "\x00\x01", "\x80", "\x80\x00", plainFact(say(3, "b", "x"))} {
-			notRead(t, number(n)+behind, api.ErrLong)
+		for _, behind := range []string{"", "\x00", "\x00\x01", "\x80", "\x80\x00", plainly.Fact(say(3, "b", "x"))} {
+			notRead(t, plainly.Number(n)+behind, api.ErrLong)
 		}
 	}
-	notRead(t, plainPut(good(api.MaxList+1)), api.ErrLong)
-	notRead(t, number(api.MaxList), api.ErrCut)
+	notRead(t, plainly.Facts(good(api.MaxList+1)...), api.ErrLong)
+	notRead(t, plainly.Number(api.MaxList), api.ErrCut)
 }
 
 func TestReadTellsATextThatIsTooLong(t *testing.T) {
 	numbers := "\x02\x05\x07\x01\x03"
 	for _, n := range []int{api.MaxText + 1, api.MaxCount, api.MaxNum} {
 		for _, behind := range []string{"", "x", "\x80"} {
-			notRead(t, "\x01"+numbers+number(n)+behind, api.ErrLong)
-			notRead(t, "\x01"+numbers+"\x01b"+number(n)+behind, api.ErrLong)
+			notRead(t, "\x01"+numbers+plainly.Number(n)+behind, api.ErrLong)
+			notRead(t, "\x01"+numbers+"\x01b"+plainly.Number(n)+behind, api.ErrLong)
 		}
 	}
 	// It comes ahead of what Check tells of the numbers, and behind what is cut ahead of it.
-	notRead(t, "\x01\x10\x00\x07\x01\x09"+number(api.MaxText+1), api.ErrLong)
+	notRead(t, "\x01\x10\x00\x07\x01\x09"+plainly.Number(api.MaxText+1), api.ErrLong)
 	notRead(t, "\x01"+numbers+"\x05b", api.ErrCut)
 	// Layer 1 takes a text of its limit; it is Check that refuses it.
 	long := strings.Repeat("x", api.MaxText)
-	notRead(t, "\x01"+numbers+text(long)+"\x01x", api.ErrName)
-	notRead(t, "\x01"+numbers+"\x01b"+text(long), api.ErrName)
-	notRead(t, "\x01\x02\x05\x07\x01\x02\x01b"+text(long), api.ErrLong)
-	notRead(t, "\x01\x02\x05\x07\x01\x01\x01b"+text(long), api.ErrLong)
-	notRead(t, "\x01\x02\x05\x07\x01\x04\x01b"+text(long), api.ErrForm)
+	notRead(t, "\x01"+numbers+plainly.Text(long)+"\x01x", api.ErrName)
+	notRead(t, "\x01"+numbers+"\x01b"+plainly.Text(long), api.ErrName)
+	notRead(t, "\x01\x02\x05\x07\x01\x02\x01b"+plainly.Text(long), api.ErrLong)
+	notRead(t, "\x01\x02\x05\x07\x01\x01\x01b"+plainly.Text(long), api.ErrLong)
+	notRead(t, "\x01\x02\x05\x07\x01\x04\x01b"+plainly.Text(long), api.ErrForm)
 }
 
 func TestReadRefusesWhatNoUpdateSays(t *testing.T) {
@@ -349,20 +323,20 @@ func TestReadRefusesWhatNoUpdateSays(t *testing.T) {
 		read := f
 		read.Stamp.Replica = f.Dot.Replica
 		if want := plainCheck(read); want != api.OK {
-			notRead(t, plainPut([]api.Fact{f}), want)
+			notRead(t, plainly.Facts(f), want)
 		} else {
-			readsPlainly(t, plainPut([]api.Fact{f}))
+			readsPlainly(t, plainly.Facts(f))
 		}
 	}
 	for place := range 6 {
-		notRead(t, plainPut(with(good(6), place, say(9, "b", "x"))), api.ErrArg)
-		notRead(t, plainPut(with(good(6), place, say(api.FactTag, "", "x"))), api.ErrName)
+		notRead(t, plainly.Facts(with(good(6), place, say(9, "b", "x"))...), api.ErrArg)
+		notRead(t, plainly.Facts(with(good(6), place, say(api.FactTag, "", "x"))...), api.ErrName)
 	}
 }
 
 func TestReadGivesAStampItsDotsReplica(t *testing.T) {
 	for replica := range api.Replicas {
-		l, err := fact.Read("\x01" + number(replica) + "\x05\x07\x01\x03\x01b\x01x")
+		l, err := fact.Read("\x01" + plainly.Number(replica) + "\x05\x07\x01\x03\x01b\x01x")
 		if want := []api.Fact{at(say(3, "b", "x"), replica)}; !slices.Equal(l, want) || err != api.OK {
 			t.Errorf("Read = %v, error %d; want %v", l, err, want)
 		}
@@ -371,7 +345,7 @@ func TestReadGivesAStampItsDotsReplica(t *testing.T) {
 
 // What layer 1 tells of all bytes comes ahead of Check's error, and of the order.
 func TestReadTellsErrorsInTheirOrder(t *testing.T) {
-	good, wrong, ahead := plainFact(say(3, "b", "x")), plainFact(say(9, "b", "x")), plainFact(say(3, "a", "x"))
+	good, wrong, ahead := plainly.Fact(say(3, "b", "x")), plainly.Fact(say(9, "b", "x")), plainly.Fact(say(3, "a", "x"))
 	notRead(t, "\x02"+wrong, api.ErrCut)
 	notRead(t, "\x03"+good+ahead+"\x02", api.ErrCut)
 	notRead(t, "\x01"+wrong+"\x00", api.ErrForm)
@@ -379,60 +353,21 @@ func TestReadTellsErrorsInTheirOrder(t *testing.T) {
 	notRead(t, "\x02"+good+good+"\x00", api.ErrForm)
 	notRead(t, "\x02"+good+ahead, api.ErrForm)
 	notRead(t, "\x03"+good+ahead+wrong, api.ErrArg)
-	notRead(t, "\x03"+good+good+plainFact(say(3, "", "x")), api.ErrName)
+	notRead(t, "\x03"+good+good+plainly.Fact(say(3, "", "x")), api.ErrName)
 }
 
-// plainNumber reads a number as promise 1.2 says, the long way: its last byte is looked for first.
-func plainNumber(s string) (int, string, api.Errno) {
-	last := 0
-	for last < len(s) && s[last] >= 128 {
-		last++
-	}
-	switch {
-	case last == len(s):
-		return 0, "", api.ErrCut
-	case last >= 8:
-		return 0, "", api.ErrRange
-	}
-	n := 0
-	for i := last; i >= 0; i-- {
-		n = n*128 + int(s[i]&127)
-	}
-	switch {
-	case n > api.MaxNum:
-		return 0, "", api.ErrRange
-	case last > 0 && s[last] == 0:
-		return 0, "", api.ErrForm
-	}
-	return n, s[last+1:], api.OK
-}
-
-// plainText reads a text likewise.
-func plainText(s string) (string, string, api.Errno) {
-	size, s, err := plainNumber(s)
-	switch {
-	case err != api.OK:
-		return "", "", err
-	case size > 65536:
-		return "", "", api.ErrLong
-	case size > len(s):
-		return "", "", api.ErrCut
-	}
-	return s[:size], s[size:], api.OK
-}
-
-// plainTake reads a fact likewise.
+// plainTake reads a fact as promise 15.2 says.
 func plainTake(s string) (api.Fact, string, api.Errno) {
 	var f api.Fact
 	for _, n := range []*int{&f.Dot.Replica, &f.Dot.N, &f.Stamp.Time, &f.Stamp.Count, &f.Kind} {
 		var err api.Errno
-		if *n, s, err = plainNumber(s); err != api.OK {
+		if *n, s, err = plainly.TakeNumber(s); err != api.OK {
 			return f, "", err
 		}
 	}
 	for _, v := range []*string{&f.Name, &f.Value} {
 		var err api.Errno
-		if *v, s, err = plainText(s); err != api.OK {
+		if *v, s, err = plainly.TakeText(s); err != api.OK {
 			return f, "", err
 		}
 	}
@@ -442,7 +377,7 @@ func plainTake(s string) (api.Fact, string, api.Errno) {
 
 // plainRead is what promise 15.2 says that Read answers.
 func plainRead(s string) ([]api.Fact, api.Errno) {
-	count, s, err := plainNumber(s)
+	count, s, err := plainly.TakeNumber(s)
 	if err != api.OK {
 		return nil, err
 	}
@@ -488,40 +423,26 @@ func readsPlainly(t *testing.T, s string) {
 }
 
 func TestReadOfAllShortBytes(t *testing.T) {
-	letters := []byte{0, 1, 2, 3, 16, 0x80}
 	// Behind these bytes some lists end within those that are walked.
 	for _, ahead := range []string{"", "\x01\x02\x05\x07\x01", "\x01\x02\x05\x07\x01\x03", "\x02\x01\x01\x01\x01\x03\x01\x02\x01\x02\x01\x01\x01\x01", "\x01\x0f\x05\x07\x01\x01\x01b"} {
-		var walk func(s []byte, left int)
-		walk = func(s []byte, left int) {
-			readsPlainly(t, ahead+string(s))
-			if left == 0 {
-				return
-			}
-			for _, c := range letters {
-				walk(append(s, c), left-1)
-			}
+		for s := range plainly.Words("\x00\x01\x02\x03\x10\x80", 6) {
+			readsPlainly(t, ahead+s)
 		}
-		walk(nil, 6)
 	}
 }
 
 // Each byte of what was put is changed to each other one.
 func TestReadOfWhatWasChanged(t *testing.T) {
 	for _, l := range [][]api.Fact{{say(3, "b", "x")}, each(), {say(3, "a", "y"), say(3, "b", "x"), say(3, "b", "y")}} {
-		s := plainPut(l)
-		for i := range s {
-			for b := range 256 {
-				changed := []byte(s)
-				changed[i] = byte(b)
-				readsPlainly(t, string(changed))
-			}
+		for changed := range plainly.Changes(plainly.Facts(l...)) {
+			readsPlainly(t, changed)
 		}
 	}
 }
 
 // A list that was read is nobody else's.
 func TestReadAnswersNewLists(t *testing.T) {
-	s := plainPut(each())
+	s := plainly.Facts(each()...)
 	a, _ := fact.Read(s)
 	b, _ := fact.Read(s)
 	clear(a)
@@ -534,13 +455,13 @@ func TestReadAnswersNewLists(t *testing.T) {
 func FuzzOneForm(f *testing.F) {
 	f.Add("")
 	f.Add("\x81\x20")
-	f.Add(plainPut(each()))
-	f.Add(plainPut(good(9)))
+	f.Add(plainly.Facts(each()...))
+	f.Add(plainly.Facts(good(9)...))
 	for _, wrong := range kindsOfWrong() {
-		f.Add(plainPut([]api.Fact{wrong}))
+		f.Add(plainly.Facts(wrong))
 	}
 	for _, l := range unordered()[:10] {
-		f.Add(plainPut(l))
+		f.Add(plainly.Facts(l...))
 	}
 	f.Fuzz(readsPlainly)
 }

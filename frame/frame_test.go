@@ -8,6 +8,7 @@ import (
 	"almonry/api"
 	"almonry/crc"
 	"almonry/frame"
+	"almonry/plainly"
 )
 
 // someTexts are of several lengths, and of bytes of each kind.
@@ -25,15 +26,6 @@ func fill(n int) string {
 	return string(out)
 }
 
-// number is how layer 1 puts a number, which is written down again here.
-func number(n int) string {
-	var out []byte
-	for ; n >= 128; n /= 128 {
-		out = append(out, byte(n%128+128))
-	}
-	return string(append(out, byte(n)))
-}
-
 // summed is bytes of any kind with their sum behind, the lowest byte first.
 func summed(s string) string {
 	sum := crc.Sum(s)
@@ -41,7 +33,7 @@ func summed(s string) string {
 }
 
 // plain is the record that promise 7.1 asks for.
-func plain(s string) string { return summed(number(len(s)) + s) }
+func plain(s string) string { return summed(plainly.Text(s)) }
 
 // with is s, but with b at a place.
 func with(s string, place int, b byte) string {
@@ -231,7 +223,7 @@ func TestReadRefusesEachOtherSum(t *testing.T) {
 func TestReadRefusesEachOtherByteOfTheText(t *testing.T) {
 	for _, s := range someTexts {
 		whole := plain(s)
-		for place := len(number(len(s))); place < len(whole)-4; place++ {
+		for place := len(plainly.Number(len(s))); place < len(whole)-4; place++ {
 			for n := range 256 {
 				if other := with(whole, place, byte(n)); other != whole {
 					refuses(t, other, api.ErrSum)

@@ -7,6 +7,7 @@ import (
 
 	"almonry/api"
 	"almonry/dot"
+	"almonry/plainly"
 	"almonry/vector"
 	"almonry/wire"
 )
@@ -42,16 +43,6 @@ func edges() []int {
 		math.MinInt, math.MinInt + 1, -api.MaxCount, -1, 0, 1, 2, 127, 128,
 		api.MaxCount - 1, api.MaxCount, api.MaxCount + 1, api.MaxNum, math.MaxInt - 1, math.MaxInt,
 	}
-}
-
-// number is what layer 1 puts.
-func number(t *testing.T, n int) string {
-	t.Helper()
-	s, err := wire.Num(n)
-	if err != api.OK {
-		t.Fatalf("Num of %d = error %d", n, err)
-	}
-	return s
 }
 
 // puts fails unless Put answers want, and Read reads it again.
@@ -284,7 +275,7 @@ func TestPut(t *testing.T) {
 func TestPutOfEachPlace(t *testing.T) {
 	for place := range api.Replicas {
 		for _, n := range counts() {
-			puts(t, with(all(5), place, n), strings.Repeat("\x05", place)+number(t, n)+strings.Repeat("\x05", 15-place))
+			puts(t, with(all(5), place, n), strings.Repeat("\x05", place)+plainly.Number(n)+strings.Repeat("\x05", 15-place))
 		}
 	}
 }
@@ -328,7 +319,7 @@ func TestReadRefusesWrongNumbers(t *testing.T) {
 
 func TestReadRefusesWhatIsCut(t *testing.T) {
 	for _, n := range counts() {
-		s := strings.Repeat(number(t, n), 16)
+		s := strings.Repeat(plainly.Number(n), 16)
 		for size := range len(s) {
 			notRead(t, s[:size], api.ErrCut)
 		}
@@ -337,7 +328,7 @@ func TestReadRefusesWhatIsCut(t *testing.T) {
 
 func TestReadRefusesWhatIsLeft(t *testing.T) {
 	for _, n := range counts() {
-		s := strings.Repeat(number(t, n), 16)
+		s := strings.Repeat(plainly.Number(n), 16)
 		for _, left := range []string{"\x00", "\x01", "x", "\x80", "\x80\x00", "\xff", s} {
 			notRead(t, s+left, api.ErrForm)
 		}
@@ -347,7 +338,7 @@ func TestReadRefusesWhatIsLeft(t *testing.T) {
 func TestReadRefusesWhatIsNoCount(t *testing.T) {
 	for place := range api.Replicas {
 		for _, n := range []int{api.MaxCount + 1, 2 * api.MaxCount, api.MaxNum - 1, api.MaxNum} {
-			ahead, behind := strings.Repeat("\x05", place)+number(t, n), strings.Repeat("\x05", 15-place)
+			ahead, behind := strings.Repeat("\x05", place)+plainly.Number(n), strings.Repeat("\x05", 15-place)
 			notRead(t, ahead+behind, api.ErrRange)
 			// What layer 1 tells of all bytes comes ahead of Check's error.
 			notRead(t, ahead+behind+"\x00", api.ErrForm)
@@ -402,7 +393,7 @@ func readsPlainly(t *testing.T, s string) {
 
 // Each two places have each two of some bytes, right and wrong, and what is left has some too.
 func TestReadOfAllPairsOfFaults(t *testing.T) {
-	parts := []string{"", "\x00", "\x7f", "\x80", number(t, api.MaxCount), number(t, api.MaxCount+1), number(t, api.MaxNum)}
+	parts := []string{"", "\x00", "\x7f", "\x80", plainly.Number(api.MaxCount), plainly.Number(api.MaxCount + 1), plainly.Number(api.MaxNum)}
 	for s := range wrongNumbers() {
 		parts = append(parts, s)
 	}

@@ -1,0 +1,129 @@
+// Package plainly says once more, the long way, how things stand as bytes, and which bytes may stand there instead: tests of the layers hold what these put and read against it.
+package plainly
+
+import (
+	"iter"
+	"strings"
+
+	"almonry/api"
+)
+
+// Number is how layer 1 puts a number that is not negative, however great it is.
+func Number(n int) string {
+	var out []byte
+	for ; n >= 128; n /= 128 {
+		out = append(out, byte(n%128+128))
+	}
+	return string(append(out, byte(n)))
+}
+
+// Numbers are some, one behind the other.
+func Numbers(l ...int) string {
+	var out strings.Builder
+	for _, n := range l {
+		out.WriteString(Number(n))
+	}
+	return out.String()
+}
+
+// Text is how layer 1 puts a text, however long it is.
+func Text(s string) string { return Number(len(s)) + s }
+
+// Dots is how layer 11 puts names, whether it takes them or not.
+func Dots(l ...api.Dot) string {
+	var out strings.Builder
+	out.WriteString(Number(len(l)))
+	for _, d := range l {
+		out.WriteString(Numbers(d.Replica, d.N))
+	}
+	return out.String()
+}
+
+// Fact is how layer 15 puts a fact, whether an update may say it or not.
+func Fact(f api.Fact) string {
+	return Numbers(f.Dot.Replica, f.Dot.N, f.Stamp.Time, f.Stamp.Count, f.Kind) + Text(f.Name) + Text(f.Value)
+}
+
+// Facts is how layer 15 puts facts likewise.
+func Facts(l ...api.Fact) string {
+	var out strings.Builder
+	out.WriteString(Number(len(l)))
+	for _, f := range l {
+		out.WriteString(Fact(f))
+	}
+	return out.String()
+}
+
+// TakeNumber reads a number as promise 1.2 says, and tells what stands behind it. Its last byte is looked for first.
+func TakeNumber(s string) (int, string, api.Errno) {
+	last := 0
+	for last < len(s) && s[last] >= 128 {
+		last++
+	}
+	switch {
+	case last == len(s):
+		return 0, "", api.ErrCut
+	case last >= 8:
+		return 0, "", api.ErrRange
+	}
+	n := 0
+	for i := last; i >= 0; i-- {
+		n = n*128 + int(s[i]&127)
+	}
+	switch {
+	case n > api.MaxNum:
+		return 0, "", api.ErrRange
+	case last > 0 && s[last] == 0:
+		return 0, "", api.ErrForm
+	}
+	return n, s[last+1:], api.OK
+}
+
+// TakeText reads a text likewise.
+func TakeText(s string) (string, string, api.Errno) {
+	size, s, err := TakeNumber(s)
+	switch {
+	case err != api.OK:
+		return "", "", err
+	case size > api.MaxText:
+		return "", "", api.ErrLong
+	case size > len(s):
+		return "", "", api.ErrCut
+	}
+	return s[:size], s[size:], api.OK
+}
+
+// Words are all texts of at most so many of these letters, a shorter one ahead of those that begin with it.
+func Words(letters string, most int) iter.Seq[string] {
+	return func(yield func(string) bool) {
+		var walk func(s string) bool
+		walk = func(s string) bool {
+			if !yield(s) {
+				return false
+			}
+			for i := 0; i < len(letters) && len(s) < most; i++ {
+				if !walk(s + letters[i:i+1]) {
+					return false
+				}
+			}
+			return true
+		}
+		walk("")
+	}
+}
+
+// Changes are s with one byte made another one: each of them each other one.
+func Changes(s string) iter.Seq[string] {
+	return func(yield func(string) bool) {
+		for i := range len(s) {
+			for b := range 256 {
+				if byte(b) == s[i] {
+					continue
+				}
+				if !yield(s[:i] + string([]byte{byte(b)}) + s[i+1:]) {
+					return
+				}
+			}
+		}
+	}
+}
