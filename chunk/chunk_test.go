@@ -29,15 +29,6 @@ func fill(n int) string {
 	return string(out)
 }
 
-// plain is what promise 9.1 says that Put puts.
-func plain(m api.Manifest) string {
-	out := plainly.Numbers(m.Size, m.Chunk, len(m.IDs))
-	for _, id := range m.IDs {
-		out += plainly.Text(id)
-	}
-	return out
-}
-
 // parts are the chunks that promise 9.1 asks for, told the long way: byte by byte.
 func parts(s string, size int) []string {
 	var l []string
@@ -108,8 +99,8 @@ func checks(t *testing.T, m api.Manifest, want api.Errno) {
 	}
 	s, err := chunk.Put(m)
 	if want == api.OK {
-		if s != plain(m) || err != api.OK {
-			t.Errorf("Put of %v = %d bytes, error %d; want %d bytes", short(m), len(s), err, len(plain(m)))
+		if s != plainly.Manifest(m) || err != api.OK {
+			t.Errorf("Put of %v = %d bytes, error %d; want %d bytes", short(m), len(s), err, len(plainly.Manifest(m)))
 		}
 		reads(t, s, m)
 		return
@@ -339,7 +330,7 @@ func TestReadTakesWhatWasPut(t *testing.T) {
 
 // What lacks bytes is cut, wherever it ends.
 func TestReadRefusesWhatLacksBytes(t *testing.T) {
-	whole := plain(api.Manifest{Size: 300, Chunk: 150, IDs: []string{idOfAB, idOfE}})
+	whole := plainly.Manifest(api.Manifest{Size: 300, Chunk: 150, IDs: []string{idOfAB, idOfE}})
 	for n := range len(whole) {
 		notRead(t, whole[:n], api.ErrCut)
 	}
@@ -388,7 +379,7 @@ func TestReadAnswersChecksErrors(t *testing.T) {
 		{Size: api.MaxNum, Chunk: api.MaxNum, IDs: zeros(1)},
 		{Size: api.MaxNum, Chunk: 1, IDs: []string{"", "x"}},
 	} {
-		notRead(t, plain(m), api.ErrRange)
+		notRead(t, plainly.Manifest(m), api.ErrRange)
 	}
 	for _, m := range []api.Manifest{
 		{Size: 1, Chunk: 1},
@@ -401,10 +392,10 @@ func TestReadAnswersChecksErrors(t *testing.T) {
 		{Size: 1, Chunk: 1, IDs: []string{fill(api.MaxText)}},
 		{Size: api.MaxData, Chunk: 1, IDs: zeros(api.MaxList)},
 	} {
-		notRead(t, plain(m), api.ErrForm)
+		notRead(t, plainly.Manifest(m), api.ErrForm)
 	}
 	// More IDs than a list has are 1's error.
-	notRead(t, plain(api.Manifest{Size: api.MaxList + 1, Chunk: 1, IDs: zeros(api.MaxList + 1)}), api.ErrLong)
+	notRead(t, plainly.Manifest(api.Manifest{Size: api.MaxList + 1, Chunk: 1, IDs: zeros(api.MaxList + 1)}), api.ErrLong)
 }
 
 // Promise 9.1: Join.
@@ -549,7 +540,7 @@ func FuzzCutAndJoin(f *testing.F) {
 			notRead(t, put, err)
 			return
 		}
-		if plain(m) != put {
+		if plainly.Manifest(m) != put {
 			t.Errorf("Read of %.20q tells %v, which is put otherwise", put, short(m))
 		}
 		checks(t, m, api.OK)

@@ -81,7 +81,7 @@ func TestPutOfNumbersAtTheEdges(t *testing.T) {
 		for _, n := range some[1:] {
 			for _, time := range some {
 				for _, count := range some {
-					d := saidBy(full(t), at(replica, n), api.Stamp{Time: time, Count: count, Replica: replica})
+					d := saidBy(full(), at(replica, n), api.Stamp{Time: time, Count: count, Replica: replica})
 					puts(t, d, plainPut(d))
 				}
 			}
@@ -117,9 +117,8 @@ func TestPutRefusesWhatCheckRefuses(t *testing.T) {
 }
 
 // great is an update of n backups, whose manifests are as long as they may be.
-func great(t *testing.T, n int) api.Delta {
-	t.Helper()
-	d, value := bare(), manifest(t, 32768, 131)
+func great(n int) api.Delta {
+	d, value := bare(), plainly.ManifestOf(32768, 131)
 	for i := range n {
 		d = saying(d, api.FactBackup, strconv.Itoa(100+i), value)
 	}
@@ -128,7 +127,7 @@ func great(t *testing.T, n int) api.Delta {
 
 // Each fact may be said, but they may be too long for a text, all together.
 func TestPutOfFactsAtTheLimitOfAText(t *testing.T) {
-	sizes, four := map[int]bool{}, great(t, 4)
+	sizes, four := map[int]bool{}, great(4)
 	for label := range 257 {
 		d := saying(four, api.FactLabel, "103", strings.Repeat("l", label))
 		size := len(plainly.Facts(d.Facts...))
@@ -144,12 +143,12 @@ func TestPutOfFactsAtTheLimitOfAText(t *testing.T) {
 	if !sizes[65536] || !sizes[65537] {
 		t.Error("no facts of just as many bytes as a text may have, or of one more")
 	}
-	most := great(t, 256)
+	most := great(256)
 	checks(t, most, api.OK)
 	notPut(t, most, api.ErrLong)
 	// What is wrong with the update is told ahead of what is too long to be put.
 	notPut(t, back(most, at(2, 5)), api.ErrForm)
-	notPut(t, back(great(t, 5), at(2, 0)), api.ErrRange)
+	notPut(t, back(great(5), at(2, 0)), api.ErrRange)
 }
 
 // The names of as many updates as can be taken back are never too long.
@@ -201,7 +200,7 @@ func TestReadOfLayerOnesErrors(t *testing.T) {
 }
 
 func TestReadOfCutAndLeftBytes(t *testing.T) {
-	for _, d := range []api.Delta{bare(), full(t), back(tags(3), dots(40)...)} {
+	for _, d := range []api.Delta{bare(), full(), back(tags(3), dots(40)...)} {
 		s := plainPut(d)
 		for size := range s {
 			notRead(t, s[:size], api.ErrCut)
@@ -388,7 +387,7 @@ func TestReadAsksTheFactsAheadOfTheGonesAheadOfTheRest(t *testing.T) {
 
 // Each byte of what was put is changed to each other one.
 func TestReadOfWhatWasChanged(t *testing.T) {
-	for _, d := range []api.Delta{bare(), full(t), back(tags(2), dots(5)...)} {
+	for _, d := range []api.Delta{bare(), full(), back(tags(2), dots(5)...)} {
 		for changed := range plainly.Changes(plainPut(d)) {
 			readsPlainly(t, changed)
 		}
@@ -397,13 +396,13 @@ func TestReadOfWhatWasChanged(t *testing.T) {
 
 // Lists that were read are nobody else's.
 func TestReadAnswersNewLists(t *testing.T) {
-	s := plainPut(full(t))
+	s := plainPut(full())
 	a, _ := delta.Read(s)
 	b, _ := delta.Read(s)
 	clear(a.Facts)
 	clear(a.Gone)
-	if !same(b, full(t)) {
-		t.Errorf("Read = %s behind a change of other lists; want %s", shown(b), shown(full(t)))
+	if !same(b, full()) {
+		t.Errorf("Read = %s behind a change of other lists; want %s", shown(b), shown(full()))
 	}
 }
 
@@ -411,7 +410,7 @@ func TestReadAnswersNewLists(t *testing.T) {
 func FuzzOneForm(f *testing.F) {
 	f.Add("")
 	f.Add(plainPut(bare()))
-	f.Add(plainPut(full(f)))
+	f.Add(plainPut(full()))
 	f.Add(plainPut(back(tags(9), dots(9)...)))
 	p := parts()
 	for i := range 4 {

@@ -9,10 +9,10 @@ import (
 	"testing"
 
 	"almonry/api"
-	"almonry/chunk"
 	"almonry/delta"
 	"almonry/dot"
 	"almonry/fact"
+	"almonry/plainly"
 	"almonry/stamp"
 )
 
@@ -46,24 +46,9 @@ func saidBy(d api.Delta, name api.Dot, when api.Stamp) api.Delta {
 	return d
 }
 
-// manifest is the manifest of so many bytes, in chunks of a size.
-func manifest(t testing.TB, bytes, size int) string {
-	t.Helper()
-	m, err := chunk.Manifest(strings.Repeat("x", bytes), size)
-	if err != api.OK {
-		t.Fatalf("no manifest: error %d", err)
-	}
-	s, err := chunk.Put(m)
-	if err != api.OK {
-		t.Fatalf("no bytes of a manifest: error %d", err)
-	}
-	return s
-}
-
 // full says a fact of each kind, and takes two updates back.
-func full(t testing.TB) api.Delta {
-	t.Helper()
-	d := saying(bare(), api.FactBackup, "b", manifest(t, 5, 2))
+func full() api.Delta {
+	d := saying(bare(), api.FactBackup, "b", plainly.ManifestOf(5, 2))
 	d = saying(d, api.FactLabel, "b", "of a day")
 	d = saying(d, api.FactTag, "b", "kept")
 	d = saying(d, api.FactKeep, "b", "\x3f\xf0\x00\x00\x00\x00\x00\x00")
@@ -143,7 +128,7 @@ func TestCheckTakesUpdates(t *testing.T) {
 		bare(),
 		{Dot: at(0, 1)},
 		{Dot: at(0, 1), Facts: []api.Fact{}, Gone: []api.Dot{}},
-		full(t),
+		full(),
 		saying(bare(), api.FactTag, "b", "x"),
 		back(bare(), at(0, 1)),
 		back(bare(), at(2, 4)),
@@ -152,12 +137,12 @@ func TestCheckTakesUpdates(t *testing.T) {
 		back(bare(), dots(16)...),
 		saying(saying(bare(), api.FactTag, "a", "x"), api.FactTag, "b", "x"),
 		saying(saying(bare(), api.FactTag, "b", "x"), api.FactTag, "b", "y"),
-		saying(saying(bare(), api.FactBackup, "a", manifest(t, 1, 1)), api.FactBackup, "b", manifest(t, 1, 1)),
+		saying(saying(bare(), api.FactBackup, "a", plainly.ManifestOf(1, 1)), api.FactBackup, "b", plainly.ManifestOf(1, 1)),
 	} {
 		checks(t, d, api.OK)
 	}
 	for replica := range api.Replicas {
-		d := full(t)
+		d := full()
 		checks(t, saidBy(d, at(replica, 5), api.Stamp{Time: 7, Replica: replica}), api.OK)
 		checks(t, saidBy(d, at(replica, 1), api.Stamp{Replica: replica}), api.OK)
 		checks(t, saidBy(d, at(replica, api.MaxCount), api.Stamp{Time: api.MaxTime, Count: api.MaxTime, Replica: replica}), api.OK)
@@ -298,7 +283,7 @@ func TestCheckAsksEachGone(t *testing.T) {
 		for place := range size {
 			for _, wrong := range wrongDots() {
 				checks(t, back(bare(), with(dots(size), place, wrong)...), api.ErrRange)
-				checks(t, back(full(t), with(dots(size), place, wrong)...), api.ErrRange)
+				checks(t, back(full(), with(dots(size), place, wrong)...), api.ErrRange)
 			}
 		}
 	}
@@ -468,7 +453,7 @@ func TestLessIsByDot(t *testing.T) {
 
 // Whatever else is told apart in two updates says nothing of which one is ahead.
 func TestLessAsksNothingElse(t *testing.T) {
-	low, high := bare(), full(t)
+	low, high := bare(), full()
 	low.Stamp, high.Stamp = api.Stamp{Time: -5, Count: 9, Replica: 99}, api.Stamp{Time: 5, Count: 8, Replica: -1}
 	high.Gone = append(high.Gone, wrongDots()...)
 	for _, a := range []api.Delta{low, high, tags(300)} {

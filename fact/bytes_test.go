@@ -102,7 +102,7 @@ func TestPutOfEachKind(t *testing.T) {
 func TestPutOfTheLongestTexts(t *testing.T) {
 	name := strings.Repeat("n", 64)
 	for _, f := range []api.Fact{
-		say(api.FactBackup, name, manifest(32768, 131)),
+		say(api.FactBackup, name, plainly.ManifestOf(32768, 131)),
 		say(api.FactLabel, name, strings.Repeat("\xff", 256)),
 		say(api.FactTag, name, strings.Repeat("\x00", 64)),
 	} {

@@ -11,24 +11,12 @@ import (
 	"almonry/chunk"
 	"almonry/dot"
 	"almonry/fact"
+	"almonry/plainly"
 	"almonry/stamp"
 )
 
 // kinds are those that there are, rising.
 func kinds() []int { return []int{api.FactBackup, api.FactLabel, api.FactTag, api.FactKeep} }
-
-// manifest is the manifest of so many bytes, in chunks of a size.
-func manifest(bytes, size int) string {
-	m, err := chunk.Manifest(strings.Repeat("x", bytes), size)
-	if err != api.OK {
-		panic("no manifest")
-	}
-	s, err := chunk.Put(m)
-	if err != api.OK {
-		panic("no bytes of a manifest")
-	}
-	return s
-}
 
 // say is a fact that replica 2 made.
 func say(kind int, name, value string) api.Fact {
@@ -42,7 +30,7 @@ func say(kind int, name, value string) api.Fact {
 // each is a fact of each kind, rising.
 func each() []api.Fact {
 	return []api.Fact{
-		say(api.FactBackup, "b", manifest(5, 2)),
+		say(api.FactBackup, "b", plainly.ManifestOf(5, 2)),
 		say(api.FactLabel, "b", "of a day"),
 		say(api.FactTag, "b", "kept"),
 		say(api.FactKeep, "b", "\x3f\xf0\x00\x00\x00\x00\x00\x00"),
@@ -146,7 +134,7 @@ func TestCheckWantsOneReplica(t *testing.T) {
 func TestCheckAsksTheKind(t *testing.T) {
 	for _, kind := range edges() {
 		// No value is one of each kind: the kind's own error is told apart from others.
-		for _, value := range []string{"", "x", "12345678", manifest(3, 1)} {
+		for _, value := range []string{"", "x", "12345678", plainly.ManifestOf(3, 1)} {
 			err := fact.Check(say(kind, "b", value))
 			if none := kind < 1 || kind > 4; (err == api.ErrArg) != none {
 				t.Errorf("Check of kind %d, value %.30q = error %d", kind, value, err)
@@ -218,16 +206,16 @@ func TestCheckAsksAKeep(t *testing.T) {
 }
 
 func TestCheckAsksAManifest(t *testing.T) {
-	id := manifest(1, 1)[3:]
+	id := plainly.ManifestOf(1, 1)[3:]
 	for _, c := range []struct {
 		value string
 		want  api.Errno
 	}{
-		{manifest(0, 1), api.OK},
-		{manifest(5, 2), api.OK},
-		{manifest(1, 4096), api.OK},
-		{manifest(251, 1), api.OK},
-		{manifest(32768, 131), api.OK},
+		{plainly.ManifestOf(0, 1), api.OK},
+		{plainly.ManifestOf(5, 2), api.OK},
+		{plainly.ManifestOf(1, 4096), api.OK},
+		{plainly.ManifestOf(251, 1), api.OK},
+		{plainly.ManifestOf(32768, 131), api.OK},
 		{"", api.ErrCut},
 		{"\x01", api.ErrCut},
 		{"\x01\x01", api.ErrCut},
@@ -240,7 +228,7 @@ func TestCheckAsksAManifest(t *testing.T) {
 		{"\x81\x80\x02\x01\x01" + id, api.ErrRange},
 		{"\x02\x01\x01" + id, api.ErrForm},
 		{"\x01\x01\x01\x04abcd", api.ErrForm},
-		{manifest(5, 2) + "\x00", api.ErrForm},
+		{plainly.ManifestOf(5, 2) + "\x00", api.ErrForm},
 		{"of a day", api.ErrCut},
 	} {
 		checks(t, say(api.FactBackup, "b", c.value), c.want)
@@ -252,7 +240,7 @@ func TestCheckAsksAManifest(t *testing.T) {
 
 func TestCheckLimitsAManifest(t *testing.T) {
 	// The longest manifest that there is within the limit, and the shortest one above it.
-	long, longer := manifest(32768, 131), manifest(252, 1)
+	long, longer := plainly.ManifestOf(32768, 131), plainly.ManifestOf(252, 1)
 	if len(long) != 16322 || len(longer) != 16385 {
 		t.Fatalf("manifests of %d and %d bytes", len(long), len(longer))
 	}
@@ -303,7 +291,7 @@ func mixed() []api.Fact {
 		for _, s := range []api.Stamp{{Time: 7, Count: 1, Replica: 2}, {Time: -1, Replica: 2}, {Replica: 16}, {Replica: 3}} {
 			for _, kind := range append(kinds(), 0, 5, -1) {
 				for _, name := range []string{"b", "", strings.Repeat("n", 64), strings.Repeat("n", 65)} {
-					for _, value := range []string{"", "x", "12345678", manifest(3, 1), manifest(252, 1), "\x00\x01\x00", "\x80", strings.Repeat("v", 257)} {
+					for _, value := range []string{"", "x", "12345678", plainly.ManifestOf(3, 1), plainly.ManifestOf(252, 1), "\x00\x01\x00", "\x80", strings.Repeat("v", 257)} {
 						l = append(l, api.Fact{Dot: d, Stamp: s, Kind: kind, Name: name, Value: value})
 					}
 				}

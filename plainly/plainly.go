@@ -3,6 +3,7 @@ package plainly
 
 import (
 	"iter"
+	"slices"
 	"strings"
 
 	"almonry/api"
@@ -52,6 +53,22 @@ func Facts(l ...api.Fact) string {
 		out.WriteString(Fact(f))
 	}
 	return out.String()
+}
+
+// Manifest is how layer 9 puts a manifest, whether it takes it or not.
+func Manifest(m api.Manifest) string {
+	var out strings.Builder
+	out.WriteString(Numbers(m.Size, m.Chunk, len(m.IDs)))
+	for _, id := range m.IDs {
+		out.WriteString(Text(id))
+	}
+	return out.String()
+}
+
+// ManifestOf is the manifest that so many bytes may have, in chunks of a size, as layer 9 puts it. Which bytes they are is not said: all IDs are zeros.
+func ManifestOf(bytes, size int) string {
+	count := (bytes + size - 1) / size
+	return Manifest(api.Manifest{Size: bytes, Chunk: size, IDs: slices.Repeat([]string{strings.Repeat("0", 64)}, count)})
 }
 
 // TakeNumber reads a number as promise 1.2 says, and tells what stands behind it. Its last byte is looked for first.

@@ -6,6 +6,7 @@ import (
 	"testing"
 
 	"almonry/api"
+	"almonry/chunk"
 	"almonry/dot"
 	"almonry/fact"
 	"almonry/plainly"
@@ -56,6 +57,29 @@ func TestDotsAndFactsAreAsLayersPutThem(t *testing.T) {
 	}
 	if got := plainly.Fact(api.Fact{}); got != "\x00\x00\x00\x00\x00\x00\x00" {
 		t.Errorf("Fact of nothing = %q", got)
+	}
+}
+
+func TestManifestsAreAsLayerNinePutsThem(t *testing.T) {
+	for _, bytes := range []int{0, 1, 4, 5, 300, api.MaxData} {
+		for _, size := range []int{8, 9, 300, api.MaxChunk} {
+			m, err := chunk.Manifest(strings.Repeat("x", bytes), size)
+			want, putErr := chunk.Put(m)
+			if err != api.OK || putErr != api.OK || plainly.Manifest(m) != want {
+				t.Errorf("Manifest of %d bytes, chunks of %d = %.20q; want %.20q", bytes, size, plainly.Manifest(m), want)
+			}
+			// The IDs apart, it is any manifest of these sizes.
+			for i := range m.IDs {
+				m.IDs[i] = strings.Repeat("0", 64)
+			}
+			if want, err := chunk.Put(m); plainly.ManifestOf(bytes, size) != want || err != api.OK {
+				t.Errorf("ManifestOf(%d, %d) = %.20q; want %.20q, error %d", bytes, size, plainly.ManifestOf(bytes, size), want, err)
+			}
+		}
+	}
+	// What is refused there has bytes too.
+	if got := plainly.Manifest(api.Manifest{Size: 300, IDs: []string{"", "x"}}); got != "\xac\x02\x00\x02\x00\x01x" {
+		t.Errorf("Manifest of no chunks' size = %q", got)
 	}
 }
 
