@@ -11,6 +11,7 @@ import (
 	"almonry/causal"
 	"almonry/fact"
 	"almonry/kernel"
+	"almonry/plainly"
 )
 
 // at is the name of a replica's update.
@@ -795,14 +796,7 @@ func FuzzOneEnd(f *testing.F) {
 		if len(s) > 400 {
 			return
 		}
-		next := func(n int) int {
-			if s == "" {
-				return 0
-			}
-			b := int(s[0])
-			s = s[1:]
-			return b % n
-		}
+		next := plainly.Choices(&s)
 		var deltas []api.Delta
 		for s != "" {
 			deltas = append(deltas, wild(next))

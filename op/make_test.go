@@ -501,14 +501,7 @@ func FuzzPlainWords(f *testing.F) {
 	f.Add("a backup, and what is said of it")
 	f.Add("\x03\x02\x01\x00\x01\x02\x00\x00\x00\x00\x05\x00\x01\x01\x01\x00\x00\x02\x03\x03\x00")
 	f.Fuzz(func(t *testing.T, s string) {
-		next := func(n int) int {
-			if s == "" {
-				return 0
-			}
-			b := int(s[0])
-			s = s[1:]
-			return b % n
-		}
+		next := plainly.Choices(&s)
 		l, o, bare, manifest := wild(next)
 		holds(t, l, o, bare, manifest)
 	})

@@ -1,4 +1,4 @@
-// Package plainly says once more, the long way, how things stand as bytes, and which bytes may stand there instead: tests of the layers hold what these put and read against it.
+// Package plainly says once more, the long way, how things stand as bytes, and what else tests of several layers hold these against: which bytes, or which order, may stand there instead.
 package plainly
 
 import (
@@ -142,5 +142,43 @@ func Changes(s string) iter.Seq[string] {
 				}
 			}
 		}
+	}
+}
+
+// Orders are all orders in which few things may stand.
+func Orders[T any](l []T) [][]T {
+	if len(l) == 0 {
+		return [][]T{nil}
+	}
+	var all [][]T
+	for _, rest := range Orders(l[1:]) {
+		for i := range len(l) {
+			all = append(all, slices.Insert(slices.Clone(rest), i, l[0]))
+		}
+	}
+	return all
+}
+
+// Ahead tells whether layer 17 takes f to be said ahead of g: by their stamps, then dots, then values, part by part.
+func Ahead(f, g api.Fact) bool {
+	fs := [5]int{f.Stamp.Time, f.Stamp.Count, f.Stamp.Replica, f.Dot.Replica, f.Dot.N}
+	gs := [5]int{g.Stamp.Time, g.Stamp.Count, g.Stamp.Replica, g.Dot.Replica, g.Dot.N}
+	for i := range fs {
+		if fs[i] != gs[i] {
+			return fs[i] < gs[i]
+		}
+	}
+	return f.Value < g.Value
+}
+
+// Choices takes the first byte of s each time, and tells the number below n that it comes to: 0, where no byte is left.
+func Choices(s *string) func(n int) int {
+	return func(n int) int {
+		if *s == "" {
+			return 0
+		}
+		b := int((*s)[0])
+		*s = (*s)[1:]
+		return b % n
 	}
 }

@@ -1,6 +1,7 @@
 package plainly_test
 
 import (
+	"fmt"
 	"slices"
 	"strings"
 	"testing"
@@ -10,6 +11,7 @@ import (
 	"almonry/dot"
 	"almonry/fact"
 	"almonry/plainly"
+	"almonry/register"
 	"almonry/wire"
 )
 
@@ -184,5 +186,68 @@ func TestChanges(t *testing.T) {
 	}
 	for range plainly.Changes("abc") {
 		break
+	}
+}
+
+func TestOrders(t *testing.T) {
+	for n, want := range []int{1, 1, 2, 6, 24, 120} {
+		rising := []int{0, 1, 2, 3, 4}[:n]
+		l := slices.Clone(rising)
+		seen := map[string]bool{}
+		for _, mixed := range plainly.Orders(l) {
+			seen[fmt.Sprint(mixed)] = true
+			slices.Sort(mixed)
+			if !slices.Equal(mixed, rising) {
+				t.Errorf("an order of %v has %v", l, mixed)
+			}
+		}
+		if len(seen) != want || !slices.Equal(l, rising) {
+			t.Errorf("%d orders of %v; want %d of %v", len(seen), l, want, rising)
+		}
+	}
+}
+
+func TestAheadIsAsLayerSeventeenLists(t *testing.T) {
+	var l []api.Fact
+	for i := range 32 {
+		l = append(l, api.Fact{
+			Stamp: api.Stamp{Time: i & 1, Count: i >> 1 & 1, Replica: i >> 2 & 1},
+			Dot:   api.Dot{Replica: i >> 3 & 1, N: i >> 4 & 1}, Value: "a",
+		})
+	}
+	for _, f := range l {
+		later := f
+		later.Value = "b"
+		l = append(l, later)
+	}
+	for i, f := range l {
+		for j, g := range l {
+			last, _ := register.Last([]api.Fact{marked(f, "f"), marked(g, "g")})
+			// A mark tells whose value is the last one.
+			if want := i != j && strings.HasSuffix(last, "g"); plainly.Ahead(f, g) != want {
+				t.Errorf("Ahead(%+v, %+v) = %t", f, g, !want)
+			}
+		}
+	}
+}
+
+// marked is f, with a mark behind its value.
+func marked(f api.Fact, mark string) api.Fact {
+	f.Value += mark
+	return f
+}
+
+func TestChoices(t *testing.T) {
+	s := "\x00\x07\xff\x09rest"
+	next := plainly.Choices(&s)
+	got := []int{next(5), next(5), next(256), next(1)}
+	if want := []int{0, 2, 255, 0}; !slices.Equal(got, want) || s != "rest" {
+		t.Errorf("choices are %v, %q is left; want %v", got, s, want)
+	}
+	for range "rest" {
+		next(3)
+	}
+	if n := next(3); n != 0 || s != "" {
+		t.Errorf("%d is chosen, %q is left, where nothing was", n, s)
 	}
 }

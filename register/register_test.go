@@ -9,6 +9,7 @@ import (
 	"testing"
 
 	"almonry/api"
+	"almonry/plainly"
 	"almonry/register"
 )
 
@@ -40,38 +41,12 @@ func strided(l []api.Fact, step int) []api.Fact {
 	return mixed
 }
 
-// orders are all orders in which few facts may stand.
-func orders(l []api.Fact) [][]api.Fact {
-	if len(l) == 0 {
-		return [][]api.Fact{nil}
-	}
-	var all [][]api.Fact
-	for _, rest := range orders(l[1:]) {
-		for i := range len(l) {
-			all = append(all, slices.Insert(slices.Clone(rest), i, l[0]))
-		}
-	}
-	return all
-}
-
-// plainAhead tells whether promise 17.1 lists f's value ahead of g's: by their Stamps, then Dots, then Values, part by part.
-func plainAhead(f, g api.Fact) bool {
-	fs := [5]int{f.Stamp.Time, f.Stamp.Count, f.Stamp.Replica, f.Dot.Replica, f.Dot.N}
-	gs := [5]int{g.Stamp.Time, g.Stamp.Count, g.Stamp.Replica, g.Dot.Replica, g.Dot.N}
-	for i := range fs {
-		if fs[i] != gs[i] {
-			return fs[i] < gs[i]
-		}
-	}
-	return f.Value < g.Value
-}
-
 // plainAll is what promise 17.1 says that All answers: each fact's value, put behind all that are not behind it.
 func plainAll(l []api.Fact) []string {
 	var rising []api.Fact
 	for _, f := range l {
 		i := 0
-		for i < len(rising) && !plainAhead(f, rising[i]) {
+		for i < len(rising) && !plainly.Ahead(f, rising[i]) {
 			i++
 		}
 		rising = slices.Insert(rising, i, f)
@@ -187,7 +162,7 @@ func TestOf(t *testing.T) {
 // Facts stand as they stood, whatever their dots, stamps and values: none is left out, and none overtakes another one.
 func TestOfLeavesFactsAsTheyStand(t *testing.T) {
 	x, y := saidAt(5, 1, "x"), saidAt(4, 2, "y")
-	for _, l := range orders([]api.Fact{x, x, y, said(y.Stamp, x.Dot, "x"), {Kind: api.FactTag, Name: "a"}}) {
+	for _, l := range plainly.Orders([]api.Fact{x, x, y, said(y.Stamp, x.Dot, "x"), {Kind: api.FactTag, Name: "a"}}) {
 		asks(t, l, api.FactTag, "a", l...)
 		asks(t, l, 0, "a", l...)
 	}
@@ -255,10 +230,10 @@ func TestLast(t *testing.T) {
 	lasts(t, []api.Fact{{}}, "", true)
 	lasts(t, []api.Fact{saidAt(5, 1, "")}, "", true)
 	lasts(t, []api.Fact{saidAt(5, 1, "x")}, "x", true)
-	for _, l := range orders([]api.Fact{saidAt(3, 1, "b"), saidAt(1, 3, "c"), saidAt(2, 2, "d")}) {
+	for _, l := range plainly.Orders([]api.Fact{saidAt(3, 1, "b"), saidAt(1, 3, "c"), saidAt(2, 2, "d")}) {
 		lasts(t, l, "b", true)
 	}
-	for _, l := range orders([]api.Fact{saidAt(3, 1, ""), saidAt(1, 3, "c"), saidAt(1, 3, "c")}) {
+	for _, l := range plainly.Orders([]api.Fact{saidAt(3, 1, ""), saidAt(1, 3, "c"), saidAt(1, 3, "c")}) {
 		lasts(t, l, "", true)
 	}
 }
@@ -287,7 +262,7 @@ func TestEachPartComesAheadOfThoseBehindIt(t *testing.T) {
 					behind(&low, math.MaxInt)
 					behind(&high, math.MinInt)
 				}
-				for _, l := range orders([]api.Fact{low, high}) {
+				for _, l := range plainly.Orders([]api.Fact{low, high}) {
 					lasts(t, l, "x", true)
 					lists(t, l, "y", "x")
 				}
@@ -317,12 +292,12 @@ func TestKindsAndNamesTellNothing(t *testing.T) {
 	for _, kind := range []int{math.MinInt, 0, api.FactBackup, api.FactLabel, api.FactTag, api.FactKeep, math.MaxInt} {
 		for _, name := range []string{"", "a", "b"} {
 			for _, first := range []api.Fact{saidAt(4, 9, "y"), saidAt(5, 1, "y"), saidAt(5, 2, "a")} {
-				for _, l := range orders([]api.Fact{saidOf(first, kind, name), saidAt(5, 2, "x")}) {
+				for _, l := range plainly.Orders([]api.Fact{saidOf(first, kind, name), saidAt(5, 2, "x")}) {
 					lasts(t, l, "x", true)
 					lists(t, l, first.Value, "x")
 				}
 			}
-			for _, l := range orders([]api.Fact{saidOf(saidAt(5, 2, "x"), kind, name), saidAt(5, 2, "x")}) {
+			for _, l := range plainly.Orders([]api.Fact{saidOf(saidAt(5, 2, "x"), kind, name), saidAt(5, 2, "x")}) {
 				lasts(t, l, "x", true)
 				lists(t, l, "x", "x")
 				has(t, l, "x")
@@ -340,13 +315,13 @@ func TestAll(t *testing.T) {
 	lists(t, []api.Fact{saidAt(5, 1, "x")}, "x")
 	// Each fact's value is told, also where another one says it too.
 	b, a, later := saidAt(1, 1, "b"), saidAt(2, 2, "a"), saidAt(3, 3, "b")
-	for _, l := range orders([]api.Fact{b, a, later}) {
+	for _, l := range plainly.Orders([]api.Fact{b, a, later}) {
 		lists(t, l, "b", "a", "b")
 	}
-	for _, l := range orders([]api.Fact{b, b, a, a}) {
+	for _, l := range plainly.Orders([]api.Fact{b, b, a, a}) {
 		lists(t, l, "b", "b", "a", "a")
 	}
-	for _, l := range orders([]api.Fact{saidAt(1, 1, ""), saidAt(1, 1, "x"), saidAt(2, 1, ""), saidAt(1, 2, "w")}) {
+	for _, l := range plainly.Orders([]api.Fact{saidAt(1, 1, ""), saidAt(1, 1, "x"), saidAt(2, 1, ""), saidAt(1, 2, "w")}) {
 		lists(t, l, "", "x", "w", "")
 	}
 }
@@ -359,13 +334,13 @@ func TestElements(t *testing.T) {
 	has(t, []api.Fact{{}}, "")
 	has(t, []api.Fact{{}, {}, {Kind: 1}}, "")
 	b, a, later := saidAt(1, 1, "b"), saidAt(2, 2, "a"), saidAt(3, 3, "b")
-	for _, l := range orders([]api.Fact{b, a, later}) {
+	for _, l := range plainly.Orders([]api.Fact{b, a, later}) {
 		has(t, l, "a", "b")
 	}
-	for _, l := range orders([]api.Fact{b, b, later, saidOf(a, api.FactLabel, "z")}) {
+	for _, l := range plainly.Orders([]api.Fact{b, b, later, saidOf(a, api.FactLabel, "z")}) {
 		has(t, l, "a", "b")
 	}
-	for _, l := range orders([]api.Fact{saidAt(1, 1, ""), saidAt(9, 2, "\x00"), saidAt(2, 1, "\xff"), saidAt(2, 1, ""), saidAt(1, 2, "a\x00")}) {
+	for _, l := range plainly.Orders([]api.Fact{saidAt(1, 1, ""), saidAt(9, 2, "\x00"), saidAt(2, 1, "\xff"), saidAt(2, 1, ""), saidAt(1, 2, "a\x00")}) {
 		has(t, l, "", "\x00", "a\x00", "\xff")
 	}
 }
