@@ -16,9 +16,6 @@ import (
 // vectorBytes is how layer 12 puts a vector, whether it takes it or not.
 func vectorBytes(v api.Vector) string { return plainly.Numbers(v[:]...) }
 
-// plainPut is what promise 13.2 says that Put puts.
-func plainPut(c api.Context) string { return vectorBytes(c.V) + plainly.Text(plainly.Dots(c.Cloud...)) }
-
 // puts fails unless Put answers want, and Read reads it again.
 func puts(t *testing.T, c api.Context, want string) {
 	t.Helper()
@@ -63,11 +60,11 @@ func TestPutOfEachPlace(t *testing.T) {
 		for _, n := range []int{0, 1, 127, 128, 1<<32 + 5, api.MaxCount - 3} {
 			v := with(all(5), place, n)
 			for _, c := range []api.Context{of(v), of(v, at(place, n+2)), of(v, at(place, n+2), at(place, n+3)), of(v, at(place, n+3))} {
-				puts(t, c, plainPut(c))
+				puts(t, c, plainly.Context(c))
 			}
 		}
 		for _, c := range []api.Context{of(with(all(5), place, api.MaxCount)), of(with(all(5), place, api.MaxCount-2), at(place, api.MaxCount))} {
-			puts(t, c, plainPut(c))
+			puts(t, c, plainly.Context(c))
 		}
 	}
 }
@@ -75,10 +72,10 @@ func TestPutOfEachPlace(t *testing.T) {
 func TestPutOfManyDots(t *testing.T) {
 	for _, n := range []int{1, 2, 63, 64, 127, 128, 1000, api.MaxList - 1, api.MaxList} {
 		c := of(api.Vector{}, odd(n)...)
-		puts(t, c, plainPut(c))
+		puts(t, c, plainly.Context(c))
 		// The longest names there are.
 		c = of(api.Vector{}, row(15, api.MaxCount-n, api.MaxCount-1)...)
-		puts(t, c, plainPut(c))
+		puts(t, c, plainly.Context(c))
 	}
 }
 
@@ -86,11 +83,11 @@ func TestPutOfManyContexts(t *testing.T) {
 	next := chance()
 	for range 500 {
 		c := causal.Clean(some(next))
-		puts(t, c, plainPut(c))
+		puts(t, c, plainly.Context(c))
 	}
 	for _, c := range small() {
 		if slices.Min(c.V[:]) >= 0 && same(c, causal.Clean(c)) {
-			puts(t, c, plainPut(c))
+			puts(t, c, plainly.Context(c))
 		}
 	}
 }
@@ -106,27 +103,16 @@ func TestPutRefusesTooMany(t *testing.T) {
 	}
 	// Many dots that are one behind the other are none beyond the vector.
 	c := causal.Add(api.Context{}, row(4, 1, 3*api.MaxList))
-	puts(t, c, plainPut(of(api.Vector{4: 3 * api.MaxList})))
+	puts(t, c, plainly.Context(of(api.Vector{4: 3 * api.MaxList})))
 }
 
 // Promise 13.2: Read of what was not put.
-
-// wrongNumbers are bytes at which layer 1 tells an error of a number.
-func wrongNumbers() map[string]api.Errno {
-	return map[string]api.Errno{
-		"\x80\x00":                             api.ErrForm,
-		"\x81\x00":                             api.ErrForm,
-		"\x81\x80\x80\x80\x80\x80\x80\x10":     api.ErrRange,
-		"\x80\x80\x80\x80\x80\x80\x80\x80\x01": api.ErrRange,
-		"\x80\x80\x80\x80\x80\x80\x80\x80\x00": api.ErrRange,
-	}
-}
 
 func TestReadRefusesWrongNumbers(t *testing.T) {
 	for place := range api.Replicas + 1 {
 		ahead := strings.Repeat("\x05", place)
 		behind := strings.Repeat("\x05", max(15-place, 0)) + "\x01\x00"
-		for s, want := range wrongNumbers() {
+		for s, want := range plainly.WrongNumbers() {
 			notRead(t, ahead+s+behind, want)
 			notRead(t, ahead+s+behind+"\x00", want)
 			notRead(t, ahead+s, want)
@@ -145,7 +131,7 @@ func clean() []api.Context {
 
 func TestReadRefusesWhatIsCut(t *testing.T) {
 	for _, c := range clean() {
-		s := plainPut(c)
+		s := plainly.Context(c)
 		for size := range len(s) {
 			notRead(t, s[:size], api.ErrCut)
 		}
@@ -154,8 +140,8 @@ func TestReadRefusesWhatIsCut(t *testing.T) {
 
 func TestReadRefusesWhatIsLeft(t *testing.T) {
 	for _, c := range clean() {
-		for _, left := range []string{"\x00", "x", "\x80", "\x80\x00", "\xff", plainPut(c)} {
-			notRead(t, plainPut(c)+left, api.ErrForm)
+		for _, left := range []string{"\x00", "x", "\x80", "\x80\x00", "\xff", plainly.Context(c)} {
+			notRead(t, plainly.Context(c)+left, api.ErrForm)
 			// Inside the text it is layer 11's to refuse it.
 			notRead(t, vectorBytes(c.V)+plainly.Text(plainly.Dots(c.Cloud...)+left), api.ErrForm)
 		}
@@ -222,15 +208,15 @@ func TestReadRefusesWrongDots(t *testing.T) {
 func TestReadRefusesWhatIsNotClean(t *testing.T) {
 	for place := range api.Replicas {
 		for _, n := range []int{1, 2, 4, 5, 6} {
-			notRead(t, plainPut(of(all(5), at(place, n))), api.ErrForm)
-			notRead(t, plainPut(of(all(5), at(place, n), at(place, 100))), api.ErrForm)
+			notRead(t, plainly.Context(of(all(5), at(place, n))), api.ErrForm)
+			notRead(t, plainly.Context(of(all(5), at(place, n), at(place, 100))), api.ErrForm)
 			// Among others that may stand there.
 			mixed := dot.Sort(append(each(7), at(place, n)))
-			notRead(t, plainPut(of(all(5), mixed...)), api.ErrForm)
+			notRead(t, plainly.Context(of(all(5), mixed...)), api.ErrForm)
 		}
-		notRead(t, plainPut(of(all(0), at(place, 1))), api.ErrForm)
-		notRead(t, plainPut(of(all(api.MaxCount), at(place, api.MaxCount))), api.ErrForm)
-		notRead(t, plainPut(of(all(api.MaxCount-1), at(place, api.MaxCount))), api.ErrForm)
+		notRead(t, plainly.Context(of(all(0), at(place, 1))), api.ErrForm)
+		notRead(t, plainly.Context(of(all(api.MaxCount), at(place, api.MaxCount))), api.ErrForm)
+		notRead(t, plainly.Context(of(all(api.MaxCount-1), at(place, api.MaxCount))), api.ErrForm)
 	}
 	for _, c := range unclean() {
 		if dots, err := dot.Put(c.Cloud); err == api.OK {
@@ -300,7 +286,7 @@ func TestReadOfAllShortTexts(t *testing.T) {
 
 // A context that was read is nobody else's.
 func TestReadAnswersNewLists(t *testing.T) {
-	s := plainPut(of(all(5), at(3, 7), at(4, 9)))
+	s := plainly.Context(of(all(5), at(3, 7), at(4, 9)))
 	a, _ := causal.Read(s)
 	b, _ := causal.Read(s)
 	clear(a.Cloud)
@@ -314,7 +300,7 @@ func FuzzOneForm(f *testing.F) {
 	f.Add("")
 	for _, c := range append(clean(), unclean()...) {
 		if slices.IndexFunc(c.Cloud, func(d api.Dot) bool { return d.Replica < 0 || d.N < 0 }) < 0 {
-			f.Add(plainPut(c))
+			f.Add(plainly.Context(c))
 		}
 	}
 	f.Add(vectorBytes(all(0)) + "\x00")

@@ -233,22 +233,11 @@ func TestPutAndReadCheckAllAheadOfTheirOrder(t *testing.T) {
 
 // Promise 15.2: Read of what was not put.
 
-// wrongNumbers are bytes at which layer 1 tells an error of a number.
-func wrongNumbers() map[string]api.Errno {
-	return map[string]api.Errno{
-		"\x80\x00":                             api.ErrForm,
-		"\x81\x00":                             api.ErrForm,
-		"\x81\x80\x80\x80\x80\x80\x80\x10":     api.ErrRange,
-		"\x80\x80\x80\x80\x80\x80\x80\x80\x01": api.ErrRange,
-		"\x80\x80\x80\x80\x80\x80\x80\x80\x00": api.ErrRange,
-	}
-}
-
 func TestReadRefusesWrongNumbers(t *testing.T) {
 	fields := []string{"\x02", "\x02", "\x05", "\x07", "\x01", "\x03", "\x01b", "\x01x", "\x02", "\x06", "\x07", "\x01", "\x03", "\x01b", "\x01x"}
 	for place := range fields {
 		ahead, behind := strings.Join(fields[:place], ""), strings.Join(fields[place+1:], "")
-		for s, want := range wrongNumbers() {
+		for s, want := range plainly.WrongNumbers() {
 			notRead(t, ahead+s, want)
 			notRead(t, ahead+s+behind, want)
 			notRead(t, ahead+s+behind+"\x00", want)

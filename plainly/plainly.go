@@ -40,6 +40,9 @@ func Dots(l ...api.Dot) string {
 	return out.String()
 }
 
+// Context is how layer 13 puts a context, whether it takes it or not.
+func Context(c api.Context) string { return Numbers(c.V[:]...) + Text(Dots(c.Cloud...)) }
+
 // Fact is how layer 15 puts a fact, whether an update may say it or not.
 func Fact(f api.Fact) string {
 	return Numbers(f.Dot.Replica, f.Dot.N, f.Stamp.Time, f.Stamp.Count, f.Kind) + Text(f.Name) + Text(f.Value)
@@ -69,6 +72,17 @@ func Manifest(m api.Manifest) string {
 func ManifestOf(bytes, size int) string {
 	count := (bytes + size - 1) / size
 	return Manifest(api.Manifest{Size: bytes, Chunk: size, IDs: slices.Repeat([]string{strings.Repeat("0", 64)}, count)})
+}
+
+// WrongNumbers are bytes at which layer 1 tells an error of a number.
+func WrongNumbers() map[string]api.Errno {
+	return map[string]api.Errno{
+		"\x80\x00":                             api.ErrForm,
+		"\x81\x00":                             api.ErrForm,
+		"\x81\x80\x80\x80\x80\x80\x80\x10":     api.ErrRange,
+		"\x80\x80\x80\x80\x80\x80\x80\x80\x01": api.ErrRange,
+		"\x80\x80\x80\x80\x80\x80\x80\x80\x00": api.ErrRange,
+	}
 }
 
 // TakeNumber reads a number as promise 1.2 says, and tells what stands behind it. Its last byte is looked for first.

@@ -7,6 +7,7 @@ import (
 	"testing"
 
 	"almonry/api"
+	"almonry/causal"
 	"almonry/chunk"
 	"almonry/dot"
 	"almonry/fact"
@@ -62,6 +63,23 @@ func TestDotsAndFactsAreAsLayersPutThem(t *testing.T) {
 	}
 }
 
+func TestContextsAreAsLayerThirteenPutsThem(t *testing.T) {
+	for _, c := range []api.Context{
+		{},
+		{V: api.Vector{2, 15: 300}},
+		{V: api.Vector{0, 1, 15: api.MaxCount}, Cloud: []api.Dot{{N: 2}, {Replica: 1, N: 300}, {Replica: 14, N: api.MaxCount}}},
+	} {
+		if want, err := causal.Put(c); plainly.Context(c) != want || err != api.OK {
+			t.Errorf("Context(%v) = %q; want %q, error %d", c, plainly.Context(c), want, err)
+		}
+	}
+	// What is refused there has bytes too.
+	wrong := api.Context{V: api.Vector{api.MaxCount + 1}, Cloud: []api.Dot{{Replica: 16, N: 1}, {}}}
+	if got, want := plainly.Context(wrong), "\x81\x80\x80\x80\x80\x20"+strings.Repeat("\x00", 15)+"\x05\x02\x10\x01\x00\x00"; got != want {
+		t.Errorf("Context of what is none = %q; want %q", got, want)
+	}
+}
+
 func TestManifestsAreAsLayerNinePutsThem(t *testing.T) {
 	for _, bytes := range []int{0, 1, 4, 5, 300, api.MaxData} {
 		for _, size := range []int{8, 9, 300, api.MaxChunk} {
@@ -95,6 +113,22 @@ func TestNumberAndTextHaveNoLimit(t *testing.T) {
 		if r := wire.New(s); r.Text() != "" || r.Err() != want {
 			t.Errorf("Text of %.20q has error %d; want %d", s, r.Err(), want)
 		}
+	}
+}
+
+func TestWrongNumbersAreThoseOfLayerOne(t *testing.T) {
+	told := map[api.Errno]bool{}
+	for s, want := range plainly.WrongNumbers() {
+		// It is told wherever the number ends, and whatever stands behind it.
+		for _, behind := range []string{"", "\x00", "\x80"} {
+			if r := wire.New(s + behind); r.Num() != 0 || r.Err() != want {
+				t.Errorf("Num of %q has error %d; want %d", s+behind, r.Err(), want)
+			}
+		}
+		told[want] = true
+	}
+	if len(told) != 2 || !told[api.ErrForm] || !told[api.ErrRange] {
+		t.Errorf("wrong numbers have errors %v; want each that is told of a whole number", told)
 	}
 }
 

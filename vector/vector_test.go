@@ -292,21 +292,10 @@ func TestPutRefusesWhatIsNoCount(t *testing.T) {
 
 // Promise 12.1: Read of what was not put.
 
-// wrongNumbers are bytes at which layer 1 tells an error of a number.
-func wrongNumbers() map[string]api.Errno {
-	return map[string]api.Errno{
-		"\x80\x00":                             api.ErrForm,
-		"\x81\x00":                             api.ErrForm,
-		"\x81\x80\x80\x80\x80\x80\x80\x10":     api.ErrRange,
-		"\x80\x80\x80\x80\x80\x80\x80\x80\x01": api.ErrRange,
-		"\x80\x80\x80\x80\x80\x80\x80\x80\x00": api.ErrRange,
-	}
-}
-
 func TestReadRefusesWrongNumbers(t *testing.T) {
 	for place := range api.Replicas {
 		ahead, behind := strings.Repeat("\x05", place), strings.Repeat("\x05", 15-place)
-		for s, want := range wrongNumbers() {
+		for s, want := range plainly.WrongNumbers() {
 			notRead(t, ahead+s+behind, want)
 			notRead(t, ahead+s+behind+"\x00", want)
 			notRead(t, ahead+s, want)
@@ -394,7 +383,7 @@ func readsPlainly(t *testing.T, s string) {
 // Each two places have each two of some bytes, right and wrong, and what is left has some too.
 func TestReadOfAllPairsOfFaults(t *testing.T) {
 	parts := []string{"", "\x00", "\x7f", "\x80", plainly.Number(api.MaxCount), plainly.Number(api.MaxCount + 1), plainly.Number(api.MaxNum)}
-	for s := range wrongNumbers() {
+	for s := range plainly.WrongNumbers() {
 		parts = append(parts, s)
 	}
 	for i := range api.Replicas {
